@@ -60,18 +60,21 @@ type quotient struct {
 	size, rest uint64
 }
 
-// divide: w by c, which must be above 0; false, if the result is no number of 64 bits however it is rounded.
-func divide(w whole, c uint64) (quotient, bool) {
-	high, low := w.size()
-	if high >= c { // at least 2^64; Div64 would panic
-		return quotient{}, false
+// divide: w by c; ErrZero, if c isn't above 0; ErrOver, if the result is no number of 64 bits however it is rounded.
+func divide(w whole, c int64) (quotient, api.Errno) {
+	if c <= 0 {
+		return quotient{}, api.ErrZero
 	}
-	size, rest := bits.Div64(high, low, c)
+	high, low := w.size()
+	if high >= uint64(c) { // at least 2^64; Div64 would panic
+		return quotient{}, api.ErrOver
+	}
+	size, rest := bits.Div64(high, low, uint64(c))
 	// What is greater is turned away here, so that adding 1 to round does not wrap.
 	if size > greatest {
-		return quotient{}, false
+		return quotient{}, api.ErrOver
 	}
-	return quotient{w.high < 0, size, rest}, true
+	return quotient{w.high < 0, size, rest}, api.OK
 }
 
 // signed: the size with its sign, if that is a number of 64 bits.

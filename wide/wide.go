@@ -44,12 +44,9 @@ func Sum(l ...int64) (int64, api.Errno) {
 
 // Floor: a times b, by c, rounded down.
 func Floor(a, b, c int64) (int64, api.Errno) {
-	if c <= 0 {
-		return 0, api.ErrZero
-	}
-	q, ok := divide(product(a, b), uint64(c))
-	if !ok {
-		return 0, api.ErrOver
+	q, err := divide(product(a, b), c)
+	if err != api.OK {
+		return 0, err
 	}
 	// Down is away from 0 for what is below 0.
 	if q.negative && q.rest > 0 {
@@ -60,12 +57,9 @@ func Floor(a, b, c int64) (int64, api.Errno) {
 
 // Even: a times b, by c, rounded to the nearest, of two that are as near to the even one.
 func Even(a, b, c int64) (int64, api.Errno) {
-	if c <= 0 {
-		return 0, api.ErrZero
-	}
-	q, ok := divide(product(a, b), uint64(c))
-	if !ok {
-		return 0, api.ErrOver
+	q, err := divide(product(a, b), c)
+	if err != api.OK {
+		return 0, err
 	}
 	// The rest is below c, which is below 2^63: twice the rest does not wrap.
 	twice := 2 * q.rest
