@@ -5,6 +5,7 @@ import (
 	"testing"
 
 	"falsework/api"
+	"falsework/mixer"
 	"falsework/wide"
 )
 
@@ -124,27 +125,11 @@ func TestSmallQuotients(t *testing.T) {
 	}
 }
 
-// mixer gives numbers without a plain pattern, the same in each run.
-type mixer uint64
-
-func (m *mixer) next() uint64 {
-	*m += 0x9e3779b97f4a7c15
-	n := uint64(*m)
-	n = (n ^ n>>30) * 0xbf58476d1ce4e5b9
-	n = (n ^ n>>27) * 0x94d049bb133111eb
-	return n ^ n>>31
-}
-
-// anySize takes all counts of bits alike: else nearly all numbers would be great ones.
-func (m *mixer) anySize() int64 {
-	return int64(m.next()) >> (m.next() % 64)
-}
-
 // P1.1, P1.2, P1.3
 func TestNumbersOfAllSizes(t *testing.T) {
-	m := mixer(1)
+	m := mixer.Mixer(1)
 	for range 100000 {
-		a, b, c, d := m.anySize(), m.anySize(), m.anySize(), m.anySize()
+		a, b, c, d := m.AnySize(), m.AnySize(), m.AnySize(), m.AnySize()
 		checkTwo(t, a, b)
 		checkThree(t, a, b, c)
 		checkSum(t, a, b, c, d)
@@ -155,10 +140,10 @@ func TestNumbersOfAllSizes(t *testing.T) {
 
 // P1.2: products made of a quotient, so that most results lie near the edges of 64 bits.
 func TestQuotientsNearTheEdges(t *testing.T) {
-	m := mixer(2)
+	m := mixer.Mixer(2)
 	for range 100000 {
-		c := max(1, m.anySize()&most)
-		b := max(1, m.anySize()&most)
+		c := max(1, m.AnySize()&most)
+		b := max(1, m.AnySize()&most)
 		a := new(big.Int).Div(times(most, c), big.NewInt(b))
 		if !a.IsInt64() {
 			continue
