@@ -17,3 +17,26 @@ func (m *Mixer) Next() uint64 {
 func (m *Mixer) AnySize() int64 {
 	return int64(m.Next()) >> (m.Next() % 64)
 }
+
+// UpTo: a number from 0 on, below n.
+func (m *Mixer) UpTo(n int) int { return int(m.Next() % uint64(n)) }
+
+// Bytes: so many, not a few zeros among them, so that bytes and what is laid around them are easily taken for one another.
+func (m *Mixer) Bytes(n int) []byte {
+	b := make([]byte, n)
+	for i := range b {
+		b[i] = byte(m.Next() >> (m.Next() % 64))
+	}
+	return b
+}
+
+// Keep: how many bytes of a sector a crash keeps, most often near its stamp.
+func (m *Mixer) Keep() int {
+	switch m.UpTo(4) {
+	case 0:
+		return m.UpTo(70) - 3
+	case 1:
+		return 64
+	}
+	return 54 + m.UpTo(11)
+}

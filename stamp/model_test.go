@@ -88,17 +88,6 @@ func sameAsModel(t *testing.T, d *disk.Disk) {
 	}
 }
 
-func upTo(m *mixer.Mixer, n int) int { return int(m.Next() % uint64(n)) }
-
-// someBytes: not a few zeros among them, so that what is behind the bytes may be taken for some.
-func someBytes(m *mixer.Mixer, n int) []byte {
-	b := make([]byte, n)
-	for i := range b {
-		b[i] = byte(m.Next() >> (m.Next() % 64))
-	}
-	return b
-}
-
 // P9.1: all lengths.
 func TestSpanByModel(t *testing.T) {
 	for n := range mostBytes + 1 {
@@ -121,13 +110,13 @@ func TestWriteByModel(t *testing.T) {
 		lengths = append(lengths, n)
 	}
 	for range 100 {
-		lengths = append(lengths, upTo(&m, mostBytes+1))
+		lengths = append(lengths, m.UpTo(mostBytes+1))
 	}
 	for _, n := range lengths {
-		b := someBytes(&m, n)
+		b := m.Bytes(n)
 		number := max(1, m.Next()>>(m.Next()%64))
-		many, before := modelSpan(n), upTo(&m, 4)
-		d := disk.Blank(before + many + upTo(&m, 4))
+		many, before := modelSpan(n), m.UpTo(4)
+		d := disk.Blank(before + many + m.UpTo(4))
 		write(t, d, before, number, b)
 		for at := range d.Size() {
 			var want api.Sector
@@ -146,44 +135,33 @@ func TestWriteByModel(t *testing.T) {
 func TestReadByModel(t *testing.T) {
 	m := mixer.Mixer(92)
 	for range 1500 {
-		d := disk.Blank(1 + upTo(&m, 5))
-		for range upTo(&m, 9) {
-			switch at := upTo(&m, d.Size()); upTo(&m, 6) {
+		d := disk.Blank(1 + m.UpTo(5))
+		for range m.UpTo(9) {
+			switch at := m.UpTo(d.Size()); m.UpTo(6) {
 			case 0:
 				s, _ := d.Get(at)
-				s[upTo(&m, sectorSize)] = byte(upTo(&m, 5))
+				s[m.UpTo(sectorSize)] = byte(m.UpTo(5))
 				put(t, d, at, s)
 			case 1:
 				s, _ := d.Get(at)
-				s[upTo(&m, 3)] = byte(upTo(&m, 70))
+				s[m.UpTo(3)] = byte(m.UpTo(70))
 				put(t, d, at, s)
 			case 2:
-				d.Power(upTo(&m, 70), upTo(&m, 70), upTo(&m, 70), upTo(&m, 70))
+				d.Power(m.UpTo(70), m.UpTo(70), m.UpTo(70), m.UpTo(70))
 			default:
-				stamp.Write(d, at, uint64(upTo(&m, 3)), someBytes(&m, upTo(&m, 120)))
+				stamp.Write(d, at, uint64(m.UpTo(3)), m.Bytes(m.UpTo(120)))
 			}
 		}
 		sameAsModel(t, d)
 	}
 }
 
-// keepOf: how many bytes of a sector a crash keeps, most often near the stamp.
-func keepOf(m *mixer.Mixer) int {
-	switch upTo(m, 4) {
-	case 0:
-		return upTo(m, 70) - 3
-	case 1:
-		return sectorSize
-	}
-	return 54 + upTo(m, 11)
-}
-
 // older: bytes on many sectors, with numbers up to the greatest that is asked for.
 func older(m *mixer.Mixer, d *disk.Disk, greatestNumber uint64) {
-	for range 1 + upTo(m, 6) {
+	for range 1 + m.UpTo(6) {
 		number := 1 + m.Next()%greatestNumber
-		stamp.Write(d, upTo(m, d.Size()), number, someBytes(m, upTo(m, 250)))
-		d.Power(keepOf(m), keepOf(m), keepOf(m), keepOf(m), keepOf(m))
+		stamp.Write(d, m.UpTo(d.Size()), number, m.Bytes(m.UpTo(250)))
+		d.Power(m.Keep(), m.Keep(), m.Keep(), m.Keep(), m.Keep())
 	}
 }
 
@@ -196,11 +174,11 @@ func TestCutOff(t *testing.T) {
 		older(&m, d, 1+m.Next()>>(m.Next()%62+1))
 		floor, _ := stamp.Top(d, 0, 6)
 		number := floor + 1 + m.Next()>>(m.Next()%62+2)
-		b := someBytes(&m, upTo(&m, 250))
-		at := upTo(&m, 7-modelSpan(len(b)))
-		d.Fuse(upTo(&m, 7) - 1)
+		b := m.Bytes(m.UpTo(250))
+		at := m.UpTo(7 - modelSpan(len(b)))
+		d.Fuse(m.UpTo(7) - 1)
 		stamp.Write(d, at, number, b)
-		d.Power(keepOf(&m), keepOf(&m), keepOf(&m), keepOf(&m), keepOf(&m))
+		d.Power(m.Keep(), m.Keep(), m.Keep(), m.Keep(), m.Keep())
 		got, told, many, e := stamp.Read(d, at, 6)
 		switch {
 		case e != ok || told <= floor:
@@ -264,8 +242,8 @@ func TestNotCutOff(t *testing.T) {
 	for range 300 {
 		d := disk.Blank(6)
 		older(&m, d, 50)
-		b := someBytes(&m, upTo(&m, 319))
-		at := upTo(&m, 7-modelSpan(len(b)))
+		b := m.Bytes(m.UpTo(319))
+		at := m.UpTo(7 - modelSpan(len(b)))
 		write(t, d, at, 51, b)
 		d.Power(slices.Repeat([]int{sectorSize}, modelSpan(len(b)))...)
 		wantRead(t, d, at, 6, b, 51, modelSpan(len(b)))
