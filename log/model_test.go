@@ -56,15 +56,6 @@ func modelOpen(sectors []api.Sector, floor uint64) (records [][]byte, room int, 
 	}
 }
 
-// keeps: of each sector on its way so many bytes come in.
-func keeps(m *mixer.Mixer) []int {
-	keep := make([]int, 12)
-	for i := range keep {
-		keep[i] = m.Keep()
-	}
-	return keep
-}
-
 // row lays records right behind one another, with stamps that mostly rise.
 func row(m *mixer.Mixer, d *disk.Disk) {
 	at, number := m.UpTo(d.Size()), uint64(m.UpTo(6))
@@ -93,7 +84,7 @@ func spoil(m *mixer.Mixer, d *disk.Disk) {
 	case 1:
 		stamp.Write(d, at, uint64(m.UpTo(20)), m.Bytes(m.UpTo(120)))
 	case 2:
-		d.Power(keeps(m)...)
+		d.Power(m.Keeps(12)...)
 	}
 }
 
@@ -173,7 +164,7 @@ func stale(m *mixer.Mixer, d *disk.Disk, greatestNumber uint64) {
 			b = closed(b)
 		}
 		stamp.Write(d, m.UpTo(d.Size()), 1+m.Next()%greatestNumber, b)
-		d.Power(keeps(m)...)
+		d.Power(m.Keeps(12)...)
 	}
 }
 
@@ -235,7 +226,7 @@ func TestCrashes(t *testing.T) {
 			top, _ := stamp.Top(d, 1, 15)
 			v := life{m: &m, d: d, floor: top + m.Next()%3}
 			v.live(t)
-			d.Power(keeps(&m)...)
+			d.Power(m.Keeps(12)...)
 			there := v.wantRecords(t)
 			if v.wantRecords(t) != there {
 				t.Fatal("opened again without anything between, it is another one")

@@ -40,3 +40,12 @@ func (m *Mixer) Keep() int {
 	}
 	return 54 + m.UpTo(11)
 }
+
+// Keeps: that of each of so many sectors.
+func (m *Mixer) Keeps(n int) []int {
+	keep := make([]int, n)
+	for i := range keep {
+		keep[i] = m.Keep()
+	}
+	return keep
+}
